@@ -141,25 +141,94 @@ func TestKindBounds(t *testing.T) {
 	}
 }
 
-// TestKindGreat: however deep or great an expression is, and whatever its lines are, its kind is told (P9.1).
-func TestKindGreat(t *testing.T) {
-	deep, left, right := name("v"), name("v"), name("v")
-	for range 60000 {
-		deep = minus(deep)
-		left = binary("+", left, name("v"))
-		right = binary("-", name("v"), right)
+// sum of names of volumes, with so many nodes.
+func sum(nodes int) api.Node {
+	n := name("v")
+	if nodes%2 == 0 {
+		n = minus(n)
 	}
-	for _, n := range []api.Node{deep, left, right} {
-		if kind, line, e := check.Kind(n, bounds); kind != api.Volume || line != 0 || e != api.OK {
-			t.Error(kind, line, e)
+	for range (nodes - 1) / 2 {
+		n = binary("+", n, name("v"))
+	}
+	return n
+}
+
+// nested: so many steps around a name of a volume.
+func nested(count int, step func(api.Node) api.Node) api.Node {
+	n := name("v")
+	for range count {
+		n = step(n)
+	}
+	return n
+}
+
+// steps that go one deeper each, but for the first ones, which need no parentheses yet.
+var steps = []struct {
+	step func(api.Node) api.Node
+	free int
+}{
+	{minus, 0},
+	{func(n api.Node) api.Node { return binary("-", name("v"), n) }, 1},
+	{func(n api.Node) api.Node { return binary("*", value("1"), n) }, 1},
+	{func(n api.Node) api.Node { return binary("*", binary("+", n, name("v")), value("2")) }, 0},
+}
+
+// TestKindNodes: a tree of more than MaxNodes nodes is no expression's, whatever else is wrong with it;
+// only its own nodes count (P9.1, P8.2).
+func TestKindNodes(t *testing.T) {
+	for _, nodes := range []int{api.MaxNodes - 3, api.MaxNodes - 2, api.MaxNodes - 1, api.MaxNodes} {
+		if kind, line, e := check.Kind(sum(nodes), bounds); kind != api.Volume || line != 0 || e != api.OK {
+			t.Errorf("%d nodes: %d %d %v", nodes, kind, line, e)
 		}
-		if kind, line, e := check.Kind(at(9, binary("*", n, n)), bounds); kind != 0 || line != 9 || e != api.ErrKind {
-			t.Error(kind, line, e)
-		}
-		if kind, line, e := check.Kind(at(9, binary("*", n, of(api.Minus, ""))), bounds); kind != 0 || line != 0 || e != api.ErrForm {
-			t.Error(kind, line, e)
+		if kind, line, e := check.Kind(relined(sum(nodes), func(int) int { return 9 }), nil); kind != 0 || line != 9 || e != api.ErrName {
+			t.Errorf("%d nodes, and no name is known: %d %d %v", nodes, kind, line, e)
 		}
 	}
+	for _, nodes := range []int{api.MaxNodes + 1, api.MaxNodes + 2, 2 * api.MaxNodes, 60001, 120000} {
+		for _, names := range [][]api.Bound{bounds, nil} {
+			if kind, line, e := check.Kind(relined(sum(nodes), func(int) int { return 9 }), names); kind != 0 || line != 0 || e != api.ErrForm {
+				t.Errorf("%d nodes: %d %d %v", nodes, kind, line, e)
+			}
+		}
+	}
+}
+
+// TestKindDepth: nor is one that is nested more than MaxDepth deep (P9.1, P8.2).
+func TestKindDepth(t *testing.T) {
+	for i, s := range steps {
+		for _, more := range []int{-1, 0, 1, 2, 30, 60000} {
+			n := relined(nested(api.MaxDepth+s.free+more, s.step), func(int) int { return 9 })
+			kind, line, e := check.Kind(n, bounds)
+			if more > 0 && (kind != 0 || line != 0 || e != api.ErrForm) || more <= 0 && (kind != api.Volume || line != 0 || e != api.OK) {
+				t.Errorf("step %d, %d beyond: %d %d %v", i, more, kind, line, e)
+			}
+			kind, line, e = check.Kind(n, nil)
+			if more > 0 && (kind != 0 || line != 0 || e != api.ErrForm) || more <= 0 && (kind != 0 || line != 9 || e != api.ErrName) {
+				t.Errorf("step %d, %d beyond, no name known: %d %d %v", i, more, kind, line, e)
+			}
+		}
+	}
+	// Minuses and parentheses count together; a product in a sum needs none.
+	for _, deep := range []int{api.MaxDepth, api.MaxDepth + 1} {
+		want := api.OK
+		if deep > api.MaxDepth {
+			want = api.ErrForm
+		}
+		mixed := name("v")
+		for range deep / 2 {
+			mixed = minus(binary("+", binary("*", mixed, value("1")), name("v")))
+		}
+		if deep%2 == 1 {
+			mixed = minus(mixed)
+		}
+		if _, line, e := check.Kind(mixed, bounds); line != 0 || e != want {
+			t.Errorf("%d deep: %d %v", deep, line, e)
+		}
+	}
+}
+
+// TestKindLines: whatever they are, they are told as they are (P9.1).
+func TestKindLines(t *testing.T) {
 	for _, line := range []int{math.MinInt, -1, 0, math.MaxInt} {
 		if _, got, e := check.Kind(minus(at(line, name("nobody"))), nil); got != line || e != api.ErrName {
 			t.Error(line, got, e)

@@ -4,6 +4,7 @@ import (
 	"strings"
 
 	"workcell/api"
+	"workcell/nest"
 )
 
 // printer of a tree that Check takes: the text so far, and in how many blocks it is.
@@ -94,7 +95,7 @@ func (p *printer) define(n api.Node) {
 
 // kid of a node, in parentheses, if it must be.
 func (p *printer) kid(n api.Node, i int) {
-	if !isWrapped(n, i) {
+	if !nest.IsWrapped(n, i) {
 		p.part(n.Kids[i])
 		return
 	}

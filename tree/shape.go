@@ -97,33 +97,3 @@ func isShaped(n api.Node, must map[int]shape) bool {
 	}
 	return true
 }
-
-// nesting: how many Blocks, Minuses and Binaries in parentheses stand in one another, at the most.
-func nesting(n api.Node) int {
-	most := 0
-	for i, kid := range n.Kids {
-		deep := nesting(kid)
-		if kid.Kind == api.Block || kid.Kind == api.Minus || isWrapped(n, i) {
-			deep++
-		}
-		most = max(most, deep)
-	}
-	return most
-}
-
-// isWrapped: does that kid of the node stand in parentheses?
-func isWrapped(n api.Node, i int) bool {
-	kid := n.Kids[i]
-	if kid.Kind != api.Binary {
-		return false
-	}
-	switch {
-	case n.Kind == api.Minus:
-		return true
-	case n.Kind != api.Binary:
-		return false
-	case isSumSign(n.Text) == isSumSign(kid.Text):
-		return i > 0 // of one rank: what is taken from the left needs none
-	}
-	return isSumSign(kid.Text)
-}
