@@ -5,7 +5,6 @@ import (
 	"slices"
 
 	"workcell/api"
-	"workcell/deck"
 	"workcell/fluid"
 	"workcell/ware"
 )
@@ -18,12 +17,16 @@ type layout struct {
 }
 
 func newLayout(d []api.Seat) layout {
-	places, _ := deck.Tips(d) // no error comes: the deck may be
-	y := layout{seats: d, tips: len(places)}
-	if y.tips > 0 {
-		// Tips come by slots, so the first one's rack is that of the least slot.
-		rack, _ := y.wareAt(places[0])
-		y.tipMost = rack.Capacity
+	y := layout{seats: d}
+	least := api.Slots + 1
+	for _, s := range d {
+		if s.Ware.Kind != api.Rack {
+			continue
+		}
+		y.tips += s.Ware.Rows * s.Ware.Columns
+		if s.Slot < least {
+			least, y.tipMost = s.Slot, s.Ware.Capacity
+		}
 	}
 	return y
 }
